@@ -1,0 +1,554 @@
+package impl
+
+import (
+	"cmp"
+	"strconv"
+	"strings"
+)
+
+// Term is a variable, a number, or a structure; a structure without arguments is an atom.
+type Term struct {
+	Kind int
+	N    int
+	Name string
+	Kids []Term
+}
+
+// Kinds of terms, and limits.
+const (
+	TermVar    = 1
+	TermInt    = 2
+	TermStruct = 3
+	MaxVar     = 25
+	MaxInt     = 999
+	MaxArity   = 4
+	MaxName    = 6
+	MaxNodes   = 120
+	MaxDepth   = 30
+)
+
+// Names of lists.
+const (
+	emptyName = "[]"
+	pairName  = "."
+)
+
+// signNames are the names that do not consist of letters.
+var signNames = [...]string{"+", "-", "*", "//", "=", "\\=", "==", "<", ">", "=<", ">=", "=:=", ".", "[]", "!"}
+
+// node is a term inside the package. Only variable, number and structure are
+// nodes, so that a node has none of the fields that a valid Term must leave empty.
+type node interface {
+	// rank is the place of the node's kind in the standard order.
+	rank() int
+}
+
+type variable int
+
+type number int
+
+type structure struct {
+	name string
+	kids []node
+}
+
+func (variable) rank() int { return 0 }
+
+func (number) rank() int { return 1 }
+
+// rank is the same for atoms: they come first by the number of their arguments.
+func (structure) rank() int { return 2 }
+
+// NameValid reports whether s is the name of an atom.
+func NameValid(s string) bool {
+	return s != "" && nameLength(s) == len(s)
+}
+
+// nameLength returns the length of the longest name with which text begins, or 0.
+// Letters that are too many for a name do not begin with one.
+func nameLength(text string) int {
+	letters := 0
+	for letters < len(text) && text[letters] >= 'a' && text[letters] <= 'z' {
+		letters++
+	}
+	if letters > MaxName {
+		return 0
+	}
+	longest := letters
+	for _, sign := range signNames {
+		if len(sign) > longest && strings.HasPrefix(text, sign) {
+			longest = len(sign)
+		}
+	}
+	return longest
+}
+
+// TermValid reports whether t is valid.
+func TermValid(t Term) bool {
+	_, ok := nodeOf(t)
+	return ok
+}
+
+// nodeMaker makes a node of a Term. The nodes that are left bound its work:
+// the Kids of a Term that is not valid can contain themselves.
+type nodeMaker struct {
+	left int
+}
+
+// nodeOf returns the node for t, or false if t is not valid.
+func nodeOf(t Term) (node, bool) {
+	maker := nodeMaker{left: MaxNodes}
+	return maker.makeNode(t, 1)
+}
+
+func (m *nodeMaker) makeNode(t Term, depth int) (node, bool) {
+	if depth > MaxDepth || m.left == 0 {
+		return nil, false
+	}
+	m.left--
+	switch {
+	case t.Kind == TermStruct:
+		return m.makeStructure(t, depth)
+	case t.Name != "" || len(t.Kids) > 0:
+		return nil, false
+	case t.Kind == TermVar && t.N >= 0 && t.N <= MaxVar:
+		return variable(t.N), true
+	case t.Kind == TermInt && t.N >= -MaxInt && t.N <= MaxInt:
+		return number(t.N), true
+	}
+	return nil, false
+}
+
+func (m *nodeMaker) makeStructure(t Term, depth int) (node, bool) {
+	if t.N != 0 || !NameValid(t.Name) || len(t.Kids) > MaxArity {
+		return nil, false
+	}
+	kids := make([]node, len(t.Kids))
+	for i, kid := range t.Kids {
+		n, ok := m.makeNode(kid, depth+1)
+		if !ok {
+			return nil, false
+		}
+		kids[i] = n
+	}
+	return structure{name: t.Name, kids: kids}, true
+}
+
+// nodesOf returns the nodes for the terms of list, or false if one of them is not valid.
+func nodesOf(list []Term) ([]node, bool) {
+	nodes := make([]node, len(list))
+	for i, t := range list {
+		n, ok := nodeOf(t)
+		if !ok {
+			return nil, false
+		}
+		nodes[i] = n
+	}
+	return nodes, true
+}
+
+// termOf returns the Term for n, in memory of its own.
+func termOf(n node) Term {
+	switch x := n.(type) {
+	case variable:
+		return Term{Kind: TermVar, N: int(x)}
+	case number:
+		return Term{Kind: TermInt, N: int(x)}
+	case structure:
+		return Term{Kind: TermStruct, Name: x.name, Kids: termsOf(x.kids)}
+	}
+	return Term{}
+}
+
+func termsOf(nodes []node) []Term {
+	if len(nodes) == 0 {
+		return nil
+	}
+	list := make([]Term, len(nodes))
+	for i, n := range nodes {
+		list[i] = termOf(n)
+	}
+	return list
+}
+
+// kidsPair tells two Kids of the same length that are compared from all others.
+type kidsPair struct {
+	first  *Term
+	second *Term
+	length int
+}
+
+// TermSame reports whether a and b are equal.
+func TermSame(a Term, b Term) bool {
+	// A term that is not valid can be too deep for a recursion, and its Kids can
+	// contain themselves: each pair of Kids needs to be compared only once.
+	seen := map[kidsPair]bool{}
+	work := [][2]Term{{a, b}}
+	for len(work) > 0 {
+		x, y := work[len(work)-1][0], work[len(work)-1][1]
+		work = work[:len(work)-1]
+		if x.Kind != y.Kind || x.N != y.N || x.Name != y.Name || len(x.Kids) != len(y.Kids) {
+			return false
+		}
+		if len(x.Kids) == 0 {
+			continue
+		}
+		pair := kidsPair{first: &x.Kids[0], second: &y.Kids[0], length: len(x.Kids)}
+		if pair.first == pair.second || seen[pair] {
+			continue
+		}
+		seen[pair] = true
+		for i := range x.Kids {
+			work = append(work, [2]Term{x.Kids[i], y.Kids[i]})
+		}
+	}
+	return true
+}
+
+// FormatTerm returns the text of t.
+func FormatTerm(t Term) string {
+	n, ok := nodeOf(t)
+	if !ok {
+		return ""
+	}
+	var text strings.Builder
+	formatNode(&text, n)
+	return text.String()
+}
+
+func formatNode(text *strings.Builder, n node) {
+	switch x := n.(type) {
+	case variable:
+		text.WriteByte('A' + byte(x))
+	case number:
+		text.WriteString(strconv.Itoa(int(x)))
+	case structure:
+		items, tail := splitList(x)
+		if len(items) > 0 {
+			formatList(text, items, tail)
+			return
+		}
+		text.WriteString(x.name)
+		if len(x.kids) > 0 {
+			text.WriteByte('(')
+			formatNodes(text, x.kids)
+			text.WriteByte(')')
+		}
+	}
+}
+
+func formatList(text *strings.Builder, items []node, tail node) {
+	text.WriteByte('[')
+	formatNodes(text, items)
+	if !isEmptyList(tail) {
+		text.WriteByte('|')
+		formatNode(text, tail)
+	}
+	text.WriteByte(']')
+}
+
+func formatNodes(text *strings.Builder, nodes []node) {
+	for i, n := range nodes {
+		if i > 0 {
+			text.WriteByte(',')
+		}
+		formatNode(text, n)
+	}
+}
+
+// splitList returns the elements with which n begins as a list, and what follows the last one.
+func splitList(n node) ([]node, node) {
+	var items []node
+	for {
+		pair, ok := n.(structure)
+		if !ok || pair.name != pairName || len(pair.kids) != 2 {
+			return items, n
+		}
+		items = append(items, pair.kids[0])
+		n = pair.kids[1]
+	}
+}
+
+// joinList is the inverse of splitList.
+func joinList(items []node, tail node) node {
+	for i := len(items) - 1; i >= 0; i-- {
+		tail = structure{name: pairName, kids: []node{items[i], tail}}
+	}
+	return tail
+}
+
+func isEmptyList(n node) bool {
+	atom, ok := n.(structure)
+	return ok && atom.name == emptyName && len(atom.kids) == 0
+}
+
+// ParseTerm parses the text of a term.
+func ParseTerm(text string) (Term, bool) {
+	r := termReader{text: text, left: MaxNodes, names: map[string]string{}}
+	n, ok := r.readTerm()
+	if !ok || r.pos != len(text) {
+		return Term{}, false
+	}
+	t := termOf(n)
+	// The reader also accepts [a|[b]] and .(a,b), which are not texts, and terms that are past a limit.
+	if FormatTerm(t) != text {
+		return Term{}, false
+	}
+	return t, true
+}
+
+// termReader reads the texts of terms. The terms that are left bound its work
+// and its recursion, and names are kept once, so that a term does not keep its whole text.
+type termReader struct {
+	text  string
+	pos   int
+	left  int
+	names map[string]string
+}
+
+func (r *termReader) readTerm() (node, bool) {
+	if r.left == 0 {
+		return nil, false
+	}
+	r.left--
+	rest := r.text[r.pos:]
+	switch {
+	case rest == "":
+		return nil, false
+	case rest[0] >= 'A' && rest[0] <= 'Z':
+		r.pos++
+		return variable(rest[0] - 'A'), true
+	case startsNumber(rest):
+		return r.readNumber()
+	case nameLength(rest) > 0:
+		return r.readStructure()
+	case r.skip('['):
+		return r.readList()
+	}
+	return nil, false
+}
+
+// startsNumber tells a number from the name -, which no digit can follow.
+func startsNumber(text string) bool {
+	digits := strings.TrimPrefix(text, "-")
+	return digits != "" && isDigit(digits[0])
+}
+
+func isDigit(b byte) bool {
+	return b >= '0' && b <= '9'
+}
+
+func (r *termReader) readNumber() (node, bool) {
+	start := r.pos
+	r.skip('-')
+	for r.pos < len(r.text) && isDigit(r.text[r.pos]) {
+		r.pos++
+	}
+	digits := r.text[start:r.pos]
+	n, err := strconv.Atoi(digits)
+	if err != nil || n < -MaxInt || n > MaxInt || strconv.Itoa(n) != digits {
+		return nil, false
+	}
+	return number(n), true
+}
+
+func (r *termReader) readStructure() (node, bool) {
+	name := r.readName()
+	if !r.skip('(') {
+		return structure{name: name}, true
+	}
+	var kids []node
+	for len(kids) == 0 || r.skip(',') {
+		kid, ok := r.readTerm()
+		if !ok {
+			return nil, false
+		}
+		kids = append(kids, kid)
+	}
+	return structure{name: name, kids: kids}, r.skip(')')
+}
+
+func (r *termReader) readName() string {
+	length := nameLength(r.text[r.pos:])
+	part := r.text[r.pos : r.pos+length]
+	r.pos += length
+	name, ok := r.names[part]
+	if !ok {
+		name = strings.Clone(part)
+		r.names[name] = name
+	}
+	return name
+}
+
+// readList reads a list behind its opening bracket.
+func (r *termReader) readList() (node, bool) {
+	var items []node
+	for len(items) == 0 || r.skip(',') {
+		item, ok := r.readTerm()
+		if !ok {
+			return nil, false
+		}
+		items = append(items, item)
+	}
+	var tail node = structure{name: emptyName}
+	if r.skip('|') {
+		rest, ok := r.readTerm()
+		if !ok {
+			return nil, false
+		}
+		tail = rest
+	}
+	return joinList(items, tail), r.skip(']')
+}
+
+// skip goes past the byte b if it comes next.
+func (r *termReader) skip(b byte) bool {
+	if r.pos == len(r.text) || r.text[r.pos] != b {
+		return false
+	}
+	r.pos++
+	return true
+}
+
+// TermVars returns the variables of t.
+func TermVars(t Term) []int {
+	n, ok := nodeOf(t)
+	if !ok {
+		return nil
+	}
+	places := numbering{places: map[variable]variable{}}
+	places.renumber(n)
+	return places.order
+}
+
+// RenumberTerms numbers the variables of terms anew.
+func RenumberTerms(list []Term) ([]Term, bool) {
+	nodes, ok := nodesOf(list)
+	if !ok {
+		return nil, false
+	}
+	places := numbering{places: map[variable]variable{}}
+	for i, n := range nodes {
+		nodes[i] = places.renumber(n)
+	}
+	return termsOf(nodes), true
+}
+
+// numbering holds the variables that were met, in this order, and their places in it.
+type numbering struct {
+	places map[variable]variable
+	order  []int
+}
+
+func (m *numbering) place(v variable) variable {
+	place, ok := m.places[v]
+	if !ok {
+		place = variable(len(m.order))
+		m.places[v] = place
+		m.order = append(m.order, int(v))
+	}
+	return place
+}
+
+func (m *numbering) renumber(n node) node {
+	switch x := n.(type) {
+	case variable:
+		return m.place(x)
+	case structure:
+		kids := make([]node, len(x.kids))
+		for i, kid := range x.kids {
+			kids[i] = m.renumber(kid)
+		}
+		return structure{name: x.name, kids: kids}
+	}
+	return n
+}
+
+// CompareTerms compares two terms in the standard order.
+func CompareTerms(a Term, b Term) int {
+	x, ok := nodeOf(a)
+	if !ok {
+		return 0
+	}
+	y, ok := nodeOf(b)
+	if !ok {
+		return 0
+	}
+	return compareNodes(x, y)
+}
+
+func compareNodes(a node, b node) int {
+	if c := cmp.Compare(a.rank(), b.rank()); c != 0 {
+		return c
+	}
+	// Nodes of one rank are of one type.
+	switch x := a.(type) {
+	case variable:
+		return cmp.Compare(x, b.(variable))
+	case number:
+		return cmp.Compare(x, b.(number))
+	case structure:
+		return compareStructures(x, b.(structure))
+	}
+	return 0
+}
+
+func compareStructures(a structure, b structure) int {
+	c := cmp.Or(cmp.Compare(len(a.kids), len(b.kids)), cmp.Compare(a.name, b.name))
+	for i := 0; c == 0 && i < len(a.kids); i++ {
+		c = compareNodes(a.kids[i], b.kids[i])
+	}
+	return c
+}
+
+// MakeList returns the list of some terms.
+func MakeList(list []Term, tail Term) (Term, bool) {
+	if len(list) > MaxNodes {
+		return Term{}, false
+	}
+	items, ok := nodesOf(list)
+	if !ok {
+		return Term{}, false
+	}
+	rest, ok := nodeOf(tail)
+	if !ok {
+		return Term{}, false
+	}
+	t := termOf(joinList(items, rest))
+	if !TermValid(t) {
+		return Term{}, false
+	}
+	return t, true
+}
+
+// ListOf returns the elements of a list.
+func ListOf(t Term) ([]Term, bool) {
+	n, ok := nodeOf(t)
+	if !ok {
+		return nil, false
+	}
+	items, tail := splitList(n)
+	if !isEmptyList(tail) {
+		return nil, false
+	}
+	return termsOf(items), true
+}
+
+// CountNodes returns the number of nodes of t.
+func CountNodes(t Term) int {
+	n, ok := nodeOf(t)
+	if !ok {
+		return 0
+	}
+	return countNodes(n)
+}
+
+func countNodes(n node) int {
+	count := 1
+	if s, ok := n.(structure); ok {
+		for _, kid := range s.kids {
+			count += countNodes(kid)
+		}
+	}
+	return count
+}
