@@ -27,6 +27,10 @@ const (
 	MaxDepth   = 30
 )
 
+// maxText is the length of the longest text that is read. The text of a valid term
+// is shorter: a node adds at most 8 bytes to it, and an operator less.
+const maxText = 1000
+
 // Names of lists.
 const (
 	emptyName = "[]"
@@ -211,48 +215,56 @@ func FormatTerm(t Term) string {
 	if !ok {
 		return ""
 	}
-	var text strings.Builder
-	formatNode(&text, n)
-	return text.String()
+	w := &termWriter{}
+	w.writePart = w.writeTerm
+	w.writeTerm(n)
+	return string(w.text)
 }
 
-func formatNode(text *strings.Builder, n node) {
+// termWriter writes the texts of terms. Arguments and elements are left to writePart,
+// because a text with operators differs from that of chapter 1 in these, too.
+type termWriter struct {
+	text      []byte
+	writePart func(n node)
+}
+
+func (w *termWriter) writeTerm(n node) {
 	switch x := n.(type) {
 	case variable:
-		text.WriteByte('A' + byte(x))
+		w.text = append(w.text, 'A'+byte(x))
 	case number:
-		text.WriteString(strconv.Itoa(int(x)))
+		w.text = strconv.AppendInt(w.text, int64(x), 10)
 	case structure:
 		items, tail := splitList(x)
 		if len(items) > 0 {
-			formatList(text, items, tail)
+			w.writeList(items, tail)
 			return
 		}
-		text.WriteString(x.name)
+		w.text = append(w.text, x.name...)
 		if len(x.kids) > 0 {
-			text.WriteByte('(')
-			formatNodes(text, x.kids)
-			text.WriteByte(')')
+			w.text = append(w.text, '(')
+			w.writeParts(x.kids)
+			w.text = append(w.text, ')')
 		}
 	}
 }
 
-func formatList(text *strings.Builder, items []node, tail node) {
-	text.WriteByte('[')
-	formatNodes(text, items)
+func (w *termWriter) writeList(items []node, tail node) {
+	w.text = append(w.text, '[')
+	w.writeParts(items)
 	if !isEmptyList(tail) {
-		text.WriteByte('|')
-		formatNode(text, tail)
+		w.text = append(w.text, '|')
+		w.writePart(tail)
 	}
-	text.WriteByte(']')
+	w.text = append(w.text, ']')
 }
 
-func formatNodes(text *strings.Builder, nodes []node) {
+func (w *termWriter) writeParts(nodes []node) {
 	for i, n := range nodes {
 		if i > 0 {
-			text.WriteByte(',')
+			w.text = append(w.text, ',')
 		}
-		formatNode(text, n)
+		w.writePart(n)
 	}
 }
 
@@ -284,8 +296,12 @@ func isEmptyList(n node) bool {
 
 // ParseTerm parses the text of a term.
 func ParseTerm(text string) (Term, bool) {
-	r := termReader{text: text, left: MaxNodes, names: map[string]string{}}
-	n, ok := r.readTerm()
+	if len(text) > maxText {
+		return Term{}, false
+	}
+	r := &termReader{text: text, names: map[string]string{}}
+	r.readPart = r.readTerm
+	n, ok := r.readTerm(1)
 	if !ok || r.pos != len(text) {
 		return Term{}, false
 	}
@@ -297,20 +313,19 @@ func ParseTerm(text string) (Term, bool) {
 	return t, true
 }
 
-// termReader reads the texts of terms. The terms that are left bound its work
-// and its recursion, and names are kept once, so that a term does not keep its whole text.
+// termReader reads the texts of terms. Arguments and elements are left to readPart,
+// because a text with operators differs from that of chapter 1 in these, too.
+// Where reading fails, pos stays at the byte that does not fit.
+// Names are kept once, so that a term does not keep its whole text.
 type termReader struct {
-	text  string
-	pos   int
-	left  int
-	names map[string]string
+	text     string
+	pos      int
+	names    map[string]string
+	readPart func(depth int) (node, bool)
 }
 
-func (r *termReader) readTerm() (node, bool) {
-	if r.left == 0 {
-		return nil, false
-	}
-	r.left--
+// readTerm reads a term whose place in the whole term has this depth.
+func (r *termReader) readTerm(depth int) (node, bool) {
 	rest := r.text[r.pos:]
 	switch {
 	case rest == "":
@@ -321,11 +336,20 @@ func (r *termReader) readTerm() (node, bool) {
 	case startsNumber(rest):
 		return r.readNumber()
 	case nameLength(rest) > 0:
-		return r.readStructure()
+		return r.readStructure(depth)
 	case r.skip('['):
-		return r.readList()
+		return r.readList(depth)
 	}
 	return nil, false
+}
+
+// readKid reads an argument or an element. No term can be deeper than MaxDepth,
+// which also bounds the recursion.
+func (r *termReader) readKid(depth int) (node, bool) {
+	if depth > MaxDepth {
+		return nil, false
+	}
+	return r.readPart(depth)
 }
 
 // startsNumber tells a number from the name -, which no digit can follow.
@@ -339,27 +363,27 @@ func isDigit(b byte) bool {
 }
 
 func (r *termReader) readNumber() (node, bool) {
-	start := r.pos
-	r.skip('-')
-	for r.pos < len(r.text) && isDigit(r.text[r.pos]) {
-		r.pos++
+	end := r.pos + 1
+	for end < len(r.text) && isDigit(r.text[end]) {
+		end++
 	}
-	digits := r.text[start:r.pos]
+	digits := r.text[r.pos:end]
 	n, err := strconv.Atoi(digits)
 	if err != nil || n < -MaxInt || n > MaxInt || strconv.Itoa(n) != digits {
 		return nil, false
 	}
+	r.pos = end
 	return number(n), true
 }
 
-func (r *termReader) readStructure() (node, bool) {
+func (r *termReader) readStructure(depth int) (node, bool) {
 	name := r.readName()
 	if !r.skip('(') {
 		return structure{name: name}, true
 	}
 	var kids []node
 	for len(kids) == 0 || r.skip(',') {
-		kid, ok := r.readTerm()
+		kid, ok := r.readKid(depth + 1)
 		if !ok {
 			return nil, false
 		}
@@ -380,11 +404,11 @@ func (r *termReader) readName() string {
 	return name
 }
 
-// readList reads a list behind its opening bracket.
-func (r *termReader) readList() (node, bool) {
+// readList reads a list behind its opening bracket. Each element is deeper by one than the one before it.
+func (r *termReader) readList(depth int) (node, bool) {
 	var items []node
 	for len(items) == 0 || r.skip(',') {
-		item, ok := r.readTerm()
+		item, ok := r.readKid(depth + len(items) + 1)
 		if !ok {
 			return nil, false
 		}
@@ -392,7 +416,7 @@ func (r *termReader) readList() (node, bool) {
 	}
 	var tail node = structure{name: emptyName}
 	if r.skip('|') {
-		rest, ok := r.readTerm()
+		rest, ok := r.readKid(depth + len(items))
 		if !ok {
 			return nil, false
 		}
