@@ -93,26 +93,34 @@ func TermValid(t Term) bool {
 	return ok
 }
 
-// nodeMaker makes a node of a Term. The nodes that are left bound its work:
-// the Kids of a Term that is not valid can contain themselves.
-type nodeMaker struct {
+// budget is the number of nodes that a term may still have. It bounds the work on terms
+// that are not valid: their Kids can contain themselves, and a node can occur in many places.
+type budget struct {
 	left int
+}
+
+// take takes a node of this depth, or returns false if a valid term has none there.
+func (b *budget) take(depth int) bool {
+	if depth > MaxDepth || b.left == 0 {
+		return false
+	}
+	b.left--
+	return true
 }
 
 // nodeOf returns the node for t, or false if t is not valid.
 func nodeOf(t Term) (node, bool) {
-	maker := nodeMaker{left: MaxNodes}
-	return maker.makeNode(t, 1)
+	b := budget{left: MaxNodes}
+	return b.makeNode(t, 1)
 }
 
-func (m *nodeMaker) makeNode(t Term, depth int) (node, bool) {
-	if depth > MaxDepth || m.left == 0 {
+func (b *budget) makeNode(t Term, depth int) (node, bool) {
+	if !b.take(depth) {
 		return nil, false
 	}
-	m.left--
 	switch {
 	case t.Kind == TermStruct:
-		return m.makeStructure(t, depth)
+		return b.makeStructure(t, depth)
 	case t.Name != "" || len(t.Kids) > 0:
 		return nil, false
 	case t.Kind == TermVar && t.N >= 0 && t.N <= MaxVar:
@@ -123,13 +131,13 @@ func (m *nodeMaker) makeNode(t Term, depth int) (node, bool) {
 	return nil, false
 }
 
-func (m *nodeMaker) makeStructure(t Term, depth int) (node, bool) {
+func (b *budget) makeStructure(t Term, depth int) (node, bool) {
 	if t.N != 0 || !NameValid(t.Name) || len(t.Kids) > MaxArity {
 		return nil, false
 	}
 	kids := make([]node, len(t.Kids))
 	for i, kid := range t.Kids {
-		n, ok := m.makeNode(kid, depth+1)
+		n, ok := b.makeNode(kid, depth+1)
 		if !ok {
 			return nil, false
 		}
@@ -149,6 +157,49 @@ func nodesOf(list []Term) ([]node, bool) {
 		nodes[i] = n
 	}
 	return nodes, true
+}
+
+// nodesOfBoth returns the nodes for a and b, or false if one of them is not valid.
+func nodesOfBoth(a Term, b Term) (node, node, bool) {
+	x, ok := nodeOf(a)
+	if !ok {
+		return nil, nil, false
+	}
+	y, ok := nodeOf(b)
+	if !ok {
+		return nil, nil, false
+	}
+	return x, y, true
+}
+
+// validTermOf returns the Term for n, or false if it would not be valid.
+func validTermOf(n node) (Term, bool) {
+	b := budget{left: MaxNodes}
+	if !b.fits(n, 1) {
+		return Term{}, false
+	}
+	return termOf(n), true
+}
+
+// fits reports whether n is within the limits of a valid term. Numbers and names of nodes always are.
+func (b *budget) fits(n node, depth int) bool {
+	if !b.take(depth) {
+		return false
+	}
+	switch x := n.(type) {
+	case variable:
+		return x >= 0 && x <= MaxVar
+	case structure:
+		if len(x.kids) > MaxArity {
+			return false
+		}
+		for _, kid := range x.kids {
+			if !b.fits(kid, depth+1) {
+				return false
+			}
+		}
+	}
+	return true
 }
 
 // termOf returns the Term for n, in memory of its own.
@@ -434,14 +485,29 @@ func (r *termReader) skip(b byte) bool {
 	return true
 }
 
+// replaceVars returns n with the nodes that replace returns for its variables, from the left.
+func replaceVars(n node, replace func(v variable) node) node {
+	switch x := n.(type) {
+	case variable:
+		return replace(x)
+	case structure:
+		kids := make([]node, len(x.kids))
+		for i, kid := range x.kids {
+			kids[i] = replaceVars(kid, replace)
+		}
+		return structure{name: x.name, kids: kids}
+	}
+	return n
+}
+
 // TermVars returns the variables of t.
 func TermVars(t Term) []int {
 	n, ok := nodeOf(t)
 	if !ok {
 		return nil
 	}
-	places := numbering{places: map[variable]variable{}}
-	places.renumber(n)
+	places := newNumbering()
+	replaceVars(n, places.place)
 	return places.order
 }
 
@@ -451,9 +517,9 @@ func RenumberTerms(list []Term) ([]Term, bool) {
 	if !ok {
 		return nil, false
 	}
-	places := numbering{places: map[variable]variable{}}
+	places := newNumbering()
 	for i, n := range nodes {
-		nodes[i] = places.renumber(n)
+		nodes[i] = replaceVars(n, places.place)
 	}
 	return termsOf(nodes), true
 }
@@ -464,7 +530,12 @@ type numbering struct {
 	order  []int
 }
 
-func (m *numbering) place(v variable) variable {
+func newNumbering() *numbering {
+	return &numbering{places: map[variable]variable{}}
+}
+
+// place returns the variable whose number is the place of v.
+func (m *numbering) place(v variable) node {
 	place, ok := m.places[v]
 	if !ok {
 		place = variable(len(m.order))
@@ -474,31 +545,17 @@ func (m *numbering) place(v variable) variable {
 	return place
 }
 
-func (m *numbering) renumber(n node) node {
-	switch x := n.(type) {
-	case variable:
-		return m.place(x)
-	case structure:
-		kids := make([]node, len(x.kids))
-		for i, kid := range x.kids {
-			kids[i] = m.renumber(kid)
-		}
-		return structure{name: x.name, kids: kids}
-	}
-	return n
-}
-
 // CompareTerms compares two terms in the standard order.
 func CompareTerms(a Term, b Term) int {
-	x, ok := nodeOf(a)
-	if !ok {
-		return 0
-	}
-	y, ok := nodeOf(b)
+	x, y, ok := nodesOfBoth(a, b)
 	if !ok {
 		return 0
 	}
 	return compareNodes(x, y)
+}
+
+func sameNode(a node, b node) bool {
+	return compareNodes(a, b) == 0
 }
 
 func compareNodes(a node, b node) int {
@@ -538,11 +595,7 @@ func MakeList(list []Term, tail Term) (Term, bool) {
 	if !ok {
 		return Term{}, false
 	}
-	t := termOf(joinList(items, rest))
-	if !TermValid(t) {
-		return Term{}, false
-	}
-	return t, true
+	return validTermOf(joinList(items, rest))
 }
 
 // ListOf returns the elements of a list.
