@@ -72,7 +72,7 @@ func NameValid(s string) bool {
 // Letters that are too many for a name do not begin with one.
 func nameLength(text string) int {
 	letters := 0
-	for letters < len(text) && text[letters] >= 'a' && text[letters] <= 'z' {
+	for letters < len(text) && isLetter(text[letters]) {
 		letters++
 	}
 	if letters > MaxName {
@@ -85,6 +85,10 @@ func nameLength(text string) int {
 		}
 	}
 	return longest
+}
+
+func isLetter(b byte) bool {
+	return b >= 'a' && b <= 'z'
 }
 
 // TermValid reports whether t is valid.
@@ -388,7 +392,7 @@ func (r *termReader) readTerm(depth int) (node, bool) {
 		return r.readNumber()
 	case nameLength(rest) > 0:
 		return r.readStructure(depth)
-	case r.skip('['):
+	case r.skip("["):
 		return r.readList(depth)
 	}
 	return nil, false
@@ -429,18 +433,18 @@ func (r *termReader) readNumber() (node, bool) {
 
 func (r *termReader) readStructure(depth int) (node, bool) {
 	name := r.readName()
-	if !r.skip('(') {
+	if !r.skip("(") {
 		return structure{name: name}, true
 	}
 	var kids []node
-	for len(kids) == 0 || r.skip(',') {
+	for len(kids) == 0 || r.skip(",") {
 		kid, ok := r.readKid(depth + 1)
 		if !ok {
 			return nil, false
 		}
 		kids = append(kids, kid)
 	}
-	return structure{name: name, kids: kids}, r.skip(')')
+	return structure{name: name, kids: kids}, r.skip(")")
 }
 
 func (r *termReader) readName() string {
@@ -458,7 +462,7 @@ func (r *termReader) readName() string {
 // readList reads a list behind its opening bracket. Each element is deeper by one than the one before it.
 func (r *termReader) readList(depth int) (node, bool) {
 	var items []node
-	for len(items) == 0 || r.skip(',') {
+	for len(items) == 0 || r.skip(",") {
 		item, ok := r.readKid(depth + len(items) + 1)
 		if !ok {
 			return nil, false
@@ -466,22 +470,22 @@ func (r *termReader) readList(depth int) (node, bool) {
 		items = append(items, item)
 	}
 	var tail node = structure{name: emptyName}
-	if r.skip('|') {
+	if r.skip("|") {
 		rest, ok := r.readKid(depth + len(items))
 		if !ok {
 			return nil, false
 		}
 		tail = rest
 	}
-	return joinList(items, tail), r.skip(']')
+	return joinList(items, tail), r.skip("]")
 }
 
-// skip goes past the byte b if it comes next.
-func (r *termReader) skip(b byte) bool {
-	if r.pos == len(r.text) || r.text[r.pos] != b {
+// skip goes past sign if it comes next.
+func (r *termReader) skip(sign string) bool {
+	if !strings.HasPrefix(r.text[r.pos:], sign) {
 		return false
 	}
-	r.pos++
+	r.pos += len(sign)
 	return true
 }
 
