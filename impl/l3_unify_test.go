@@ -15,7 +15,7 @@ func TestFailedUnificationIsTakenBack(t *testing.T) {
 		}
 		return n
 	}
-	u := unifier{binds: map[variable]node{}, done: map[kidsOfTwo]bool{}}
+	u := newUnifier()
 	left, right := read("g(B,B)"), read("g(C,C)")
 	steps := []struct {
 		a, b  node
