@@ -169,11 +169,19 @@ func (u *slowUnifier) unify(a impl.Term, b impl.Term) bool {
 }
 
 func (u *slowUnifier) bind(n int, x impl.Term) bool {
-	if slices.Contains(impl.TermVars(x), n) {
+	if hasVariable(x, n) {
 		return false
 	}
 	u.binds = append(u.binds, impl.Bind{N: n, Term: x})
 	return true
+}
+
+// hasVariable reports whether a variable occurs in x, which need not be valid.
+func hasVariable(x impl.Term, n int) bool {
+	if x.Kind == impl.TermVar {
+		return x.N == n
+	}
+	return slices.ContainsFunc(x.Kids, func(kid impl.Term) bool { return hasVariable(kid, n) })
 }
 
 // answer returns the bindings as UnifyTerms returns them.

@@ -368,7 +368,7 @@ func TestCompareGoal(t *testing.T) {
 	}
 }
 
-// slowCall solves a goal that is built in as the table says it, by UnifyTerms and slowValue.
+// slowCall solves a goal that is built in as the table says it, with bindings of any size. Variables can have any numbers.
 func slowCall(goal impl.Term) ([]impl.Bind, int) {
 	kids := goal.Kids
 	switch goal.Name {
@@ -379,7 +379,7 @@ func slowCall(goal impl.Term) ([]impl.Bind, int) {
 	case "\\=":
 		return nil, failUnless(!(&slowUnifier{}).unify(kids[0], kids[1]))
 	case "==":
-		return nil, failUnless(impl.FormatTerm(kids[0]) == impl.FormatTerm(kids[1]))
+		return nil, failUnless(impl.TermSame(kids[0], kids[1]))
 	case "var", "nonvar":
 		return nil, failUnless((kids[0].Kind == impl.TermVar) == (goal.Name == "var"))
 	case "atom":
@@ -414,14 +414,19 @@ func failUnless(holds bool) int {
 }
 
 func slowUnify(a impl.Term, b impl.Term) ([]impl.Bind, int) {
-	if !(&slowUnifier{}).unify(a, b) {
+	u := &slowUnifier{}
+	if !u.unify(a, b) {
 		return nil, impl.CallFail
 	}
-	binds, ok := impl.UnifyTerms(a, b)
-	if !ok {
+	return u.answer(), impl.CallTrue
+}
+
+// limited returns what slowCall returned, or CallRange if a binding is too large.
+func limited(binds []impl.Bind, code int) ([]impl.Bind, int) {
+	if slices.ContainsFunc(binds, func(b impl.Bind) bool { return !impl.TermValid(b.Term) }) {
 		return nil, impl.CallRange
 	}
-	return binds, impl.CallTrue
+	return binds, code
 }
 
 func slowArg(place impl.Term, whole impl.Term, part impl.Term) ([]impl.Bind, int) {
@@ -470,7 +475,7 @@ func TestCallBuiltinByTheTable(t *testing.T) {
 	met := make([]int, len(codeNames))
 	bound := 0
 	for _, goal := range builtinGoals(callParts(t)) {
-		want, code := slowCall(goal)
+		want, code := limited(slowCall(goal))
 		checkCall(t, goal, formatBinds(want), code)
 		met[code]++
 		bound += len(want)
