@@ -43,12 +43,19 @@ func formatAnswers(query []impl.Term, answers []impl.Answer) string {
 	return strings.Join(texts, " & ")
 }
 
+// solvers has the functions that answer queries, by their names.
+func solvers() map[string]func(p []impl.Clause, query []impl.Term, most int, fuel int) ([]impl.Answer, int) {
+	return map[string]func(p []impl.Clause, query []impl.Term, most int, fuel int) ([]impl.Answer, int){"Solve": impl.Solve, "SolveIndexed": impl.SolveIndexed}
+}
+
 // checkSolve checks the answers, as formatAnswers writes them, and the end.
 func checkSolve(t *testing.T, p []impl.Clause, query []impl.Term, most int, fuel int, want string, end string) {
 	t.Helper()
-	answers, got := impl.Solve(p, query, most, fuel)
-	if text := formatAnswers(query, answers); text != want || endName(got) != end {
-		t.Errorf("Solve(%s, %d, %d) = %q, %s, not %q, %s", writeAll(query), most, fuel, text, endName(got), want, end)
+	for name, solve := range solvers() {
+		answers, got := solve(p, query, most, fuel)
+		if text := formatAnswers(query, answers); text != want || endName(got) != end {
+			t.Errorf("%s(%s, %d, %d) = %q, %s, not %q, %s", name, writeAll(query), most, fuel, text, endName(got), want, end)
+		}
 	}
 }
 
@@ -226,8 +233,10 @@ func TestInvalidSearches(t *testing.T) {
 	p, query := mustProgram(t, "p(1)."), mustQuery(t, "p(A)")
 	check := func(p []impl.Clause, query []impl.Term, most int, fuel int) {
 		t.Helper()
-		if answers, end := impl.Solve(p, query, most, fuel); len(answers) > 0 || end != impl.EndInvalid {
-			t.Errorf("Solve(%v, %v, %d, %d) = %v, %s", p, query, most, fuel, answers, endName(end))
+		for name, solve := range solvers() {
+			if answers, end := solve(p, query, most, fuel); len(answers) > 0 || end != impl.EndInvalid {
+				t.Errorf("%s(%v, %v, %d, %d) = %v, %s", name, p, query, most, fuel, answers, endName(end))
+			}
 		}
 	}
 	for _, n := range []int{-1, impl.MaxAnswers + 1, impl.MaxAnswers + 2, -1 << 63, 1<<63 - 1} {

@@ -10,12 +10,16 @@ import (
 // with the next clause, and what a variable stands for is put into all goals at once.
 type slowSearch struct {
 	program []impl.Clause
+	// indexed says that clauses with other keys are left out.
+	indexed bool
 	most    int
 	fuel    int
 	// fresh is a number that no variable has, and those behind it.
 	fresh   int
 	answers []impl.Answer
 	end     int
+	// left is the greatest number of choices.
+	left int
 }
 
 // slowGoal is a goal with the level of the call in which its clause was chosen.
@@ -30,6 +34,11 @@ const ended = -1
 // slowSolve returns what Solve should return for a program, a query and limits that are valid.
 func slowSolve(p []impl.Clause, query []impl.Term, most int, fuel int) ([]impl.Answer, int) {
 	s := &slowSearch{program: p, most: most, fuel: fuel}
+	s.search(query)
+	return s.answers, s.end
+}
+
+func (s *slowSearch) search(query []impl.Term) {
 	var goals []slowGoal
 	for _, x := range query {
 		goals = append(goals, slowGoal{term: x})
@@ -38,10 +47,9 @@ func slowSolve(p []impl.Clause, query []impl.Term, most int, fuel int) ([]impl.A
 	for _, v := range impl.QueryVars(query) {
 		values = append(values, variable(v))
 	}
-	if s.run(goals, values, 0) != ended {
+	if s.run(goals, values, 0, nil) != ended {
 		s.end = impl.EndNo
 	}
-	return s.answers, s.end
 }
 
 func (s *slowSearch) stop(end int) int {
@@ -50,8 +58,10 @@ func (s *slowSearch) stop(end int) int {
 }
 
 // run returns the level of the call to which the search goes back: a cut goes back to the one before
-// that of its clause, and the end of the search goes back to none.
-func (s *slowSearch) run(goals []slowGoal, values []impl.Term, level int) int {
+// that of its clause, and the end of the search goes back to none. choices has the levels of the calls
+// that go on with another clause.
+func (s *slowSearch) run(goals []slowGoal, values []impl.Term, level int, choices []int) int {
+	s.left = max(s.left, len(choices))
 	if len(goals) == 0 {
 		return s.keep(values, level)
 	}
@@ -64,17 +74,18 @@ func (s *slowSearch) run(goals []slowGoal, values []impl.Term, level int) int {
 	case !withinLimits(first.term):
 		return s.stop(impl.EndLarge)
 	case first.term.Name == "!":
-		return min(s.run(rest, values, level), first.level)
+		older := slices.DeleteFunc(slices.Clone(choices), func(choice int) bool { return choice >= first.level })
+		return min(s.run(rest, values, level, older), first.level)
 	case impl.IsBuiltin(first.term.Name, len(first.term.Kids)):
-		return s.solve(first.term, rest, values, level)
+		return s.solve(first.term, rest, values, level, choices)
 	}
-	return s.call(first.term, rest, values, level)
+	return s.call(first.term, rest, values, level, choices)
 }
 
-func (s *slowSearch) solve(goal impl.Term, rest []slowGoal, values []impl.Term, level int) int {
+func (s *slowSearch) solve(goal impl.Term, rest []slowGoal, values []impl.Term, level int, choices []int) int {
 	switch binds, code := slowCall(goal); code {
 	case impl.CallTrue:
-		return s.run(replacedGoals(rest, binds), replacedAll(values, binds), level)
+		return s.run(replacedGoals(rest, binds), replacedAll(values, binds), level, choices)
 	case impl.CallFail:
 		return level
 	case impl.CallInst:
@@ -88,13 +99,16 @@ func (s *slowSearch) solve(goal impl.Term, rest []slowGoal, values []impl.Term, 
 	}
 }
 
-func (s *slowSearch) call(goal impl.Term, rest []slowGoal, values []impl.Term, level int) int {
-	known := false
-	for _, c := range s.program {
-		if c.Head.Name != goal.Name || len(c.Head.Kids) != len(goal.Kids) {
-			continue
-		}
-		known = true
+func (s *slowSearch) call(goal impl.Term, rest []slowGoal, values []impl.Term, level int, choices []int) int {
+	clauses := slowClauses(s.program, goal, false)
+	if len(clauses) == 0 {
+		return s.stop(impl.EndUnknown)
+	}
+	if s.indexed {
+		clauses = slowClauses(s.program, goal, true)
+	}
+	for i, index := range clauses {
+		c := s.program[index]
 		s.fresh += 100
 		u := &slowUnifier{}
 		if !u.unify(moved(c.Head, s.fresh), goal) {
@@ -104,16 +118,37 @@ func (s *slowSearch) call(goal impl.Term, rest []slowGoal, values []impl.Term, l
 		for _, x := range c.Body {
 			next = append(next, slowGoal{term: moved(x, s.fresh), level: level})
 		}
+		left := slices.Clone(choices)
+		if i < len(clauses)-1 {
+			left = append(left, level)
+		}
 		binds := u.answer()
-		back := s.run(replacedGoals(append(next, rest...), binds), replacedAll(values, binds), level+1)
+		back := s.run(replacedGoals(append(next, rest...), binds), replacedAll(values, binds), level+1, left)
 		if back <= level {
 			return back
 		}
 	}
-	if !known {
-		return s.stop(impl.EndUnknown)
-	}
 	return level
+}
+
+// slowClauses returns the clauses for a goal, whose variables can have any numbers: the candidates, or all.
+func slowClauses(p []impl.Clause, goal impl.Term, candidates bool) []int {
+	var found []int
+	for i, c := range p {
+		alike := c.Head.Name == goal.Name && len(c.Head.Kids) == len(goal.Kids)
+		if alike && (!candidates || len(goal.Kids) == 0 || mayBeEqual(c.Head.Kids[0], goal.Kids[0])) {
+			found = append(found, i)
+		}
+	}
+	return found
+}
+
+// mayBeEqual reports whether a and b have the same key as first arguments, or none.
+func mayBeEqual(a impl.Term, b impl.Term) bool {
+	if a.Kind == impl.TermVar || b.Kind == impl.TermVar {
+		return true
+	}
+	return a.Kind == b.Kind && a.N == b.N && a.Name == b.Name && len(a.Kids) == len(b.Kids)
 }
 
 func (s *slowSearch) keep(values []impl.Term, level int) int {
