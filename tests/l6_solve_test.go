@@ -45,7 +45,7 @@ func formatAnswers(query []impl.Term, answers []impl.Answer) string {
 
 // solvers has the functions that answer queries, by their names.
 func solvers() map[string]func(p []impl.Clause, query []impl.Term, most int, fuel int) ([]impl.Answer, int) {
-	return map[string]func(p []impl.Clause, query []impl.Term, most int, fuel int) ([]impl.Answer, int){"Solve": impl.Solve, "SolveIndexed": impl.SolveIndexed}
+	return map[string]func(p []impl.Clause, query []impl.Term, most int, fuel int) ([]impl.Answer, int){"Solve": impl.Solve, "SolveIndexed": impl.SolveIndexed, "RunCode": impl.RunCode}
 }
 
 // checkSolve checks the answers, as formatAnswers writes them, and the end.
@@ -68,12 +68,15 @@ func writeAll(query []impl.Term) string {
 	return strings.Join(texts, ",")
 }
 
-// checkTable checks rows of a query, its answers and its end, without limits that matter.
+// checkTable checks rows of a query, its answers and its end, without limits that matter, and
+// compares the execution of code with the search for all limits.
 func checkTable(t *testing.T, program string, rows [][3]string) {
 	t.Helper()
 	p := programOf(t, program)
 	for _, row := range rows {
-		checkSolve(t, p, mustQuery(t, row[0]), impl.MaxAnswers, impl.MaxFuel, row[1], row[2])
+		query := mustQuery(t, row[0])
+		checkSolve(t, p, query, impl.MaxAnswers, impl.MaxFuel, row[1], row[2])
+		compareLimits(t, p, query)
 	}
 }
 
@@ -311,6 +314,7 @@ func TestMost(t *testing.T) {
 	for most := range impl.MaxAnswers + 1 {
 		query := mustQuery(t, "p(A),p(B),p(C)")
 		answers, end := impl.Solve(p, query, most, impl.MaxFuel)
+		compareRun(t, p, query, most, impl.MaxFuel)
 		if len(answers) != most || end != impl.EndMore {
 			t.Errorf("Solve(%s, %d) = %d answers, %s", writeAll(query), most, len(answers), endName(end))
 		}
@@ -336,6 +340,7 @@ func checkFuel(t *testing.T, p []impl.Clause, query []impl.Term, goals int) {
 	want, end := impl.Solve(p, query, impl.MaxAnswers, impl.MaxFuel)
 	for fuel := range impl.MaxFuel + 1 {
 		answers, got := impl.Solve(p, query, impl.MaxAnswers, fuel)
+		compareRun(t, p, query, impl.MaxAnswers, fuel)
 		if fuel >= goals {
 			if got != end || !slices.EqualFunc(answers, want, impl.AnswerSame) {
 				t.Errorf("Solve(%s) with the fuel %d = %q, %s, not %q, %s", writeAll(query), fuel, formatAnswers(query, answers), endName(got), formatAnswers(query, want), endName(end))
@@ -508,6 +513,7 @@ func TestVariablesOfQueriesAndClauses(t *testing.T) {
 			p := []impl.Clause{{Head: structure("p", number(1), variable(m)), Body: []impl.Term{structure("q", number(2))}}, {Head: structure("q", other), Body: []impl.Term{structure("r", other)}}, {Head: structure("r", number(2))}}
 			query := []impl.Term{structure("p", variable(n), variable((n+1)%(impl.MaxVar+1)))}
 			answers, end := impl.Solve(p, query, 5, 5)
+			compareRun(t, p, query, 5, 5)
 			if len(answers) != 1 || formatAll(answers[0].Values) != "1 A" || end != impl.EndNo {
 				t.Errorf("Solve(%s) = %q, %s, for %s", writeAll(query), formatAnswers(query, answers), endName(end), impl.FormatProgram(p))
 			}
@@ -645,6 +651,7 @@ func TestAnswersThatAreTooLarge(t *testing.T) {
 		for name, c := range bodies {
 			p := []impl.Clause{{Head: structure("p", number(1))}, c, {Head: structure("p", number(2))}}
 			answers, end := impl.Solve(p, mustQuery(t, "p(B)"), 5, 50)
+			compareLimits(t, p, mustQuery(t, "p(B)"))
 			if extra > 1 {
 				if len(answers) != 1 || end != impl.EndLarge {
 					t.Errorf("%s of %d more: Solve = %d answers, %s", name, extra, len(answers), endName(end))
@@ -677,6 +684,7 @@ func TestAnswersWithManyVariables(t *testing.T) {
 			p = p[:2]
 		}
 		answers, end := impl.Solve(p, mustQuery(t, "p(A),q(B)"), 5, 5)
+		compareLimits(t, p, mustQuery(t, "p(A),q(B)"))
 		if len(answers) != 1 || end != impl.EndNo || len(impl.TermVars(structure("t", answers[0].Values...))) != impl.MaxVar+1 {
 			t.Errorf("%d and %d variables: Solve = %v, %s", variables, other, answers, endName(end))
 			continue
@@ -696,6 +704,7 @@ func TestAnswersWithManyVariables(t *testing.T) {
 	// Variables that occur in several values are counted once.
 	p := []impl.Clause{{Head: structure("p", several(impl.MaxVar+1), several(impl.MaxVar+1))}}
 	answers, end := impl.Solve(p, mustQuery(t, "p(A,B)"), 5, 5)
+	compareRun(t, p, mustQuery(t, "p(A,B)"), 5, 5)
 	if len(answers) != 1 || end != impl.EndNo || !impl.TermSame(answers[0].Values[0], answers[0].Values[1]) {
 		t.Errorf("Solve(p(A,B)) = %v, %s", answers, endName(end))
 	}
