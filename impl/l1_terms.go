@@ -264,6 +264,72 @@ func TermSame(a Term, b Term) bool {
 	return true
 }
 
+// termCopier copies any terms into memory of their own.
+type termCopier struct {
+	// left is the number of nodes that a valid term may still have. Kids of these are copied
+	// wherever they occur.
+	left int
+	// copies has copies of Kids of further nodes. A term that is not valid can have more of
+	// these than can be copied, or contain itself: its copy has the same Kids in several places.
+	copies map[kidsPlace][]Term
+	// work has copied Kids, whose own Kids were not copied yet.
+	work [][]Term
+}
+
+// kidsPlace tells Kids from all others.
+type kidsPlace struct {
+	first  *Term
+	length int
+}
+
+func newTermCopier() *termCopier {
+	return &termCopier{copies: map[kidsPlace][]Term{}}
+}
+
+func (c *termCopier) copyTerms(list []Term) []Term {
+	if len(list) == 0 {
+		return nil
+	}
+	copied := make([]Term, len(list))
+	for i, t := range list {
+		copied[i] = c.copyTerm(t)
+	}
+	return copied
+}
+
+func (c *termCopier) copyTerm(t Term) Term {
+	c.left = MaxNodes
+	t.Kids = c.copyKids(t.Kids)
+	// A term that is not valid can be too deep for a recursion.
+	for len(c.work) > 0 {
+		last := c.work[len(c.work)-1]
+		c.work = c.work[:len(c.work)-1]
+		for i := range last {
+			last[i].Kids = c.copyKids(last[i].Kids)
+		}
+	}
+	return t
+}
+
+// copyKids returns a copy of kids, for whose own Kids there is work to do.
+func (c *termCopier) copyKids(kids []Term) []Term {
+	if len(kids) == 0 {
+		return nil
+	}
+	place := kidsPlace{first: &kids[0], length: len(kids)}
+	if known, ok := c.copies[place]; ok && c.left <= 0 {
+		return known
+	}
+	copied := make([]Term, len(kids))
+	copy(copied, kids)
+	if c.left <= 0 {
+		c.copies[place] = copied
+	}
+	c.left -= len(kids)
+	c.work = append(c.work, copied)
+	return copied
+}
+
 // FormatTerm returns the text of t.
 func FormatTerm(t Term) string {
 	n, ok := nodeOf(t)

@@ -48,7 +48,7 @@ func solvers() map[string]func(p []impl.Clause, query []impl.Term, most int, fue
 	return map[string]func(p []impl.Clause, query []impl.Term, most int, fuel int) ([]impl.Answer, int){"Solve": impl.Solve, "SolveIndexed": impl.SolveIndexed, "RunCode": impl.RunCode}
 }
 
-// checkSolve checks the answers, as formatAnswers writes them, and the end.
+// checkSolve checks the answers, as formatAnswers writes them, and the end, and compares sessions with this fuel.
 func checkSolve(t *testing.T, p []impl.Clause, query []impl.Term, most int, fuel int, want string, end string) {
 	t.Helper()
 	for name, solve := range solvers() {
@@ -57,6 +57,7 @@ func checkSolve(t *testing.T, p []impl.Clause, query []impl.Term, most int, fuel
 			t.Errorf("%s(%s, %d, %d) = %q, %s, not %q, %s", name, writeAll(query), most, fuel, text, endName(got), want, end)
 		}
 	}
+	compareDrains(t, p, query, fuel, slicings())
 }
 
 // writeAll returns the texts of goals with commas between them.
@@ -69,7 +70,7 @@ func writeAll(query []impl.Term) string {
 }
 
 // checkTable checks rows of a query, its answers and its end, without limits that matter, and
-// compares the execution of code with the search for all limits.
+// compares the execution of code and sessions with the search for all limits.
 func checkTable(t *testing.T, program string, rows [][3]string) {
 	t.Helper()
 	p := programOf(t, program)
@@ -77,6 +78,7 @@ func checkTable(t *testing.T, program string, rows [][3]string) {
 		query := mustQuery(t, row[0])
 		checkSolve(t, p, query, impl.MaxAnswers, impl.MaxFuel, row[1], row[2])
 		compareLimits(t, p, query)
+		compareSessions(t, p, query)
 	}
 }
 
@@ -181,6 +183,7 @@ func TestSolveWithFactsAndNumbers(t *testing.T) {
 
 // TestEachEnd has searches that find answers before they end, and others that do not.
 func TestEachEnd(t *testing.T) {
+	t.Parallel()
 	checkTable(t, `
 p(1).
 p(2).
@@ -315,6 +318,7 @@ func TestMost(t *testing.T) {
 		query := mustQuery(t, "p(A),p(B),p(C)")
 		answers, end := impl.Solve(p, query, most, impl.MaxFuel)
 		compareRun(t, p, query, most, impl.MaxFuel)
+		compareDrains(t, p, query, most, slicings())
 		if len(answers) != most || end != impl.EndMore {
 			t.Errorf("Solve(%s, %d) = %d answers, %s", writeAll(query), most, len(answers), endName(end))
 		}
@@ -341,6 +345,7 @@ func checkFuel(t *testing.T, p []impl.Clause, query []impl.Term, goals int) {
 	for fuel := range impl.MaxFuel + 1 {
 		answers, got := impl.Solve(p, query, impl.MaxAnswers, fuel)
 		compareRun(t, p, query, impl.MaxAnswers, fuel)
+		compareDrains(t, p, query, fuel, [][]int{nil, {goals - 1, 0, 1, 1}, {goals, -1, 1}, {1, 2, 3, 4, 5}})
 		if fuel >= goals {
 			if got != end || !slices.EqualFunc(answers, want, impl.AnswerSame) {
 				t.Errorf("Solve(%s) with the fuel %d = %q, %s, not %q, %s", writeAll(query), fuel, formatAnswers(query, answers), endName(got), formatAnswers(query, want), endName(end))
@@ -514,6 +519,7 @@ func TestVariablesOfQueriesAndClauses(t *testing.T) {
 			query := []impl.Term{structure("p", variable(n), variable((n+1)%(impl.MaxVar+1)))}
 			answers, end := impl.Solve(p, query, 5, 5)
 			compareRun(t, p, query, 5, 5)
+			compareDrains(t, p, query, 5, [][]int{nil, {1, 1, 1, 1, 1}, {2, 1}, {3}})
 			if len(answers) != 1 || formatAll(answers[0].Values) != "1 A" || end != impl.EndNo {
 				t.Errorf("Solve(%s) = %q, %s, for %s", writeAll(query), formatAnswers(query, answers), endName(end), impl.FormatProgram(p))
 			}
@@ -652,6 +658,7 @@ func TestAnswersThatAreTooLarge(t *testing.T) {
 			p := []impl.Clause{{Head: structure("p", number(1))}, c, {Head: structure("p", number(2))}}
 			answers, end := impl.Solve(p, mustQuery(t, "p(B)"), 5, 50)
 			compareLimits(t, p, mustQuery(t, "p(B)"))
+			compareSessions(t, p, mustQuery(t, "p(B)"))
 			if extra > 1 {
 				if len(answers) != 1 || end != impl.EndLarge {
 					t.Errorf("%s of %d more: Solve = %d answers, %s", name, extra, len(answers), endName(end))
@@ -685,6 +692,7 @@ func TestAnswersWithManyVariables(t *testing.T) {
 		}
 		answers, end := impl.Solve(p, mustQuery(t, "p(A),q(B)"), 5, 5)
 		compareLimits(t, p, mustQuery(t, "p(A),q(B)"))
+		compareSessions(t, p, mustQuery(t, "p(A),q(B)"))
 		if len(answers) != 1 || end != impl.EndNo || len(impl.TermVars(structure("t", answers[0].Values...))) != impl.MaxVar+1 {
 			t.Errorf("%d and %d variables: Solve = %v, %s", variables, other, answers, endName(end))
 			continue
@@ -705,6 +713,7 @@ func TestAnswersWithManyVariables(t *testing.T) {
 	p := []impl.Clause{{Head: structure("p", several(impl.MaxVar+1), several(impl.MaxVar+1))}}
 	answers, end := impl.Solve(p, mustQuery(t, "p(A,B)"), 5, 5)
 	compareRun(t, p, mustQuery(t, "p(A,B)"), 5, 5)
+	compareDrains(t, p, mustQuery(t, "p(A,B)"), 5, slicings())
 	if len(answers) != 1 || end != impl.EndNo || !impl.TermSame(answers[0].Values[0], answers[0].Values[1]) {
 		t.Errorf("Solve(p(A,B)) = %v, %s", answers, endName(end))
 	}

@@ -74,6 +74,7 @@ v(A,A,A,A).
 // TestRunCodeOfManyPrograms compares the execution of code with the search for random programs and queries, with
 // each most and fuel, and in some of them with all of these together.
 func TestRunCodeOfManyPrograms(t *testing.T) {
+	t.Parallel()
 	s := source{state: 61}
 	met := make([]int, len(endNames))
 	count, together := 0, 0
@@ -113,6 +114,7 @@ func TestRunCodeOfManyPrograms(t *testing.T) {
 
 // TestExecutionsStepByStep compares executions with those of slowMachine, with all that they use and the goals that they take.
 func TestExecutionsStepByStep(t *testing.T) {
+	t.Parallel()
 	s := source{state: 62}
 	met := make([]int, len(endNames))
 	chosen, back := 0, 0
